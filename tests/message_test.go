@@ -343,10 +343,10 @@ func plainBody(text string, bodiless bool) ([]impl.Field, string, int64, int64) 
 	kind, size := plainFraming(list)
 	rest := text[took:]
 	switch {
-	case bodiless || kind == 0:
-		return kept, "", took, 0
 	case kind == 3:
 		return nil, "", 0, 3
+	case bodiless || kind == 0:
+		return kept, "", took, 0
 	case kind == 1 && int64(len(rest)) >= size:
 		return kept, rest[:size], took + size, 0
 	case kind == 2:
@@ -661,11 +661,14 @@ func TestReadResponseWithoutABody(t *testing.T) {
 	for _, status := range []int64{204, 304} {
 		for _, list := range lists {
 			text := fmt.Sprintf("HTTP/1.1 %d ok\r\n%s\r\n", status, impl.ShowFields(list))
-			want := impl.Response{Status: status, Fields: plainWithout(list, "content-length", "transfer-encoding")}
+			want, taken, told := impl.Response{Status: status, Fields: plainWithout(list, "content-length", "transfer-encoding")}, int64(len(text)), int64(impl.RdOk)
+			if kind, _ := plainFraming(list); kind == impl.FmBad {
+				want, taken, told = impl.Response{}, 0, impl.RdFraming
+			}
 			for _, behind := range append([]string{"ab", "abc", "3\r\nabc\r\n" + lastChunk}, behindTexts...) {
 				got, took, code := impl.ReadResponse(text + behind)
-				if code != impl.RdOk || took != int64(len(text)) || !sameResponse(got, want) {
-					t.Errorf("%.80q with %.20q behind: %.80q, %d, %d", text, behind, fmt.Sprint(got), took, code)
+				if code != told || took != taken || !sameResponse(got, want) {
+					t.Errorf("%.80q with %.20q behind: %.80q, %d, %d, not %d, %d", text, behind, fmt.Sprint(got), took, code, taken, told)
 				}
 			}
 		}
@@ -679,6 +682,41 @@ func TestReadResponseWithoutABody(t *testing.T) {
 		}
 		if code != impl.RdOk || got.Status != status || got.Body != want {
 			t.Errorf("Status %d: %.80q, %d", status, fmt.Sprint(got), code)
+		}
+	}
+}
+
+// Status 204 and 304 take away the reading of a Body, and not what is told of Fields that are FmBad.
+func TestFramingOfResponsesWithoutABody(t *testing.T) {
+	bad := []string{
+		"content-length: 4001\r\n", "content-length: \r\n", "content-length:\r\n", "content-length: x\r\n", "content-length: -1\r\n", "content-length: 0000000000000001\r\n", "content-length: 3\r\ncontent-length: 3\r\n", "a: 1\r\nContent-Length: 0, 0\r\nb: 2\r\n",
+		"Transfer-Encoding: gzip\r\n", "transfer-encoding:\r\n", "transfer-encoding: gzip, chunked\r\n", "transfer-encoding: chunked\r\nTRANSFER-ENCODING: chunked\r\n",
+		"content-length: 3\r\ntransfer-encoding: chunked\r\n", "Transfer-Encoding: chunked\r\nContent-Length: 0\r\n", strings.Repeat("a: 1\r\n", 29) + "content-length: 4001\r\n",
+	}
+	right := []string{"", "a: 1\r\n", "content-length: 0\r\n", "content-length: 3\r\n", "Content-Length: 4000\r\n", "a: 1\r\nCONTENT-LENGTH: 0003\r\n", "transfer-encoding: chunked\r\n", "Transfer-Encoding: Chunked\r\nb: 2\r\n", strings.Repeat("a: 1\r\n", 29) + "content-length: 4000\r\n"}
+	behinds := []string{"", "a", "ab", "abc", "abcd", "g\r\n", "3\r\nab", lastChunk, "HTTP/1.1 200 ok\r\n\r\n", strings.Repeat("b", 4001)}
+	for _, line := range []string{"HTTP/1.1 204 ok\r\n", "HTTP/1.1 304 ok\r\n", "HTTP/1.1 304 -\r\n"} {
+		for _, behind := range behinds {
+			for _, fields := range bad {
+				if got, took, code := impl.ReadResponse(line + fields + "\r\n" + behind); code != impl.RdFraming || took != 0 || !isZeroResponse(got) {
+					t.Errorf("%.80q with %.20q behind: %.80q, %d, %d", line+fields, behind, fmt.Sprint(got), took, code)
+				}
+			}
+			for _, fields := range right {
+				text := line + fields + "\r\n"
+				if got, took, code := impl.ReadResponse(text + behind); code != impl.RdOk || took != int64(len(text)) || got.Body != "" {
+					t.Errorf("%.80q with %.20q behind: %.80q, %d, %d", text, behind, fmt.Sprint(got), took, code)
+				}
+			}
+		}
+		// What comes ahead of the framing is still told first.
+		for _, fields := range bad {
+			if _, took, code := impl.ReadResponse(line + fields); code != impl.RdFields || took != 0 {
+				t.Errorf("%.80q without an empty line: %d, %d", line+fields, took, code)
+			}
+			if _, took, code := impl.ReadResponse("X" + line + fields + "\r\n"); code != impl.RdLine || took != 0 {
+				t.Errorf("%.80q behind a byte: %d, %d", line+fields, took, code)
+			}
 		}
 	}
 }
@@ -825,12 +863,13 @@ func TestReadCodes(t *testing.T) {
 		if _, _, code := impl.ReadResponse("HTTP/1.1 199 ok\r\n" + behind); code != impl.RdLine {
 			t.Errorf("a wrong line with %.80q: %d", behind, code)
 		}
-		// One that has no Body has no code of it.
-		if want >= impl.RdFraming {
+		// One whose Body is not read has no code of it; the others it has.
+		if want == impl.RdBody {
 			want = impl.RdOk
 		}
-		if response, _, code := impl.ReadResponse("HTTP/1.1 304 ok\r\n" + behind); code != want || response.Body != "" {
-			t.Errorf("304 with %.80q: %.80q, %d, not %d", behind, fmt.Sprint(response), code, want)
+		response, took, code = impl.ReadResponse("HTTP/1.1 304 ok\r\n" + behind)
+		if code != want || response.Body != "" || code != impl.RdOk && (took != 0 || !isZeroResponse(response)) {
+			t.Errorf("304 with %.80q: %.80q, %d, %d, not %d", behind, fmt.Sprint(response), took, code, want)
 		}
 	}
 }
